@@ -5,19 +5,21 @@ import (
 	"strings"
 
 	"stillroom/api"
+	"stillroom/disk"
 )
 
-// write lays bytes into blocks that have just room for them. No write fails:
-// the space gives out blocks of the disk alone.
-func (t *Table) write(blocks []int, data string) {
+// Lay bytes into blocks that have just room for them, and a Barrier. It stands
+// open for who writes the bytes of an inode anew: how they lie in their blocks
+// is known here alone. No write fails: an inode has blocks of its disk alone.
+func Lay(d *disk.Disk, blocks []int, data string) {
 	filled := make([]byte, len(blocks)*api.BlockSize) // zeros behind the data
 	copy(filled, data)
 	i := 0
 	for piece := range slices.Chunk(filled, api.BlockSize) {
-		t.disk.Write(blocks[i], string(piece))
+		d.Write(blocks[i], string(piece))
 		i++
 	}
-	t.disk.Barrier()
+	d.Barrier()
 }
 
 // read takes that many bytes out of blocks, as they stand there, rotten or

@@ -29,6 +29,9 @@ func TestNameByte(t *testing.T) {
 	for c := range 256 {
 		s := string([]byte{byte(c)})
 		want := strings.Contains(good, s)
+		if tree.NameByte(byte(c)) != want {
+			t.Errorf("%q: want %v", s, want)
+		}
 		for _, name := range []string{s + "a", "a" + s, "a" + s + "a"} {
 			if tree.Name(name) != want {
 				t.Errorf("%q: want %v", name, want)

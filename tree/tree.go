@@ -9,14 +9,15 @@ func Name(s string) bool {
 		return false
 	}
 	for i := range len(s) {
-		if !nameByte(s[i]) {
+		if !NameByte(s[i]) {
 			return false
 		}
 	}
 	return true
 }
 
-func nameByte(c byte) bool {
+// NameByte: may a byte be a name's?
+func NameByte(c byte) bool {
 	return c >= 'a' && c <= 'z' || c >= '0' && c <= '9' || c == '.' || c == '-'
 }
 

@@ -183,6 +183,14 @@ func TestOnLeavesTheBytes(t *testing.T) {
 	holds(t, d, true, "1:a\n.2:")
 	appends(t, d, "d")
 	holds(t, d, true, "1:a\n.2:1:d\n.")
+	reads(t, "behind what was begun", d.Bytes(), 5, "a")
+
+	d = newDisk(t, "")
+	cut(t, d, 2)
+	refuses(t, d, "bc", api.ErrOff)
+	d.On()
+	appends(t, d, "")
+	reads(t, "a part of another text", d.Bytes(), 6, "0:")
 }
 
 func TestAppendsWhilePowerIsOff(t *testing.T) {

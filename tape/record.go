@@ -18,13 +18,32 @@ func Append(d *Disk, s string) error {
 	if d == nil {
 		return api.ErrShape
 	}
+	return d.record(len(d.bytes), s)
+}
+
+// Resume is Append, but for what power that failed left of a record: where power
+// is there again, that goes, as Recover would have it, and nothing else does: a
+// Cut waits on. So who goes on behind On alone is read too.
+func Resume(d *Disk, s string) error {
+	if !d.Power() {
+		return Append(d, s)
+	}
+	return d.record(len(d.bytes)-d.torn, s)
+}
+
+// record is written at a place; what stands from there on goes, unless there is
+// an error ahead of the first byte.
+func (d *Disk) record(at int, s string) error {
 	if len(s) > api.MaxText {
 		return api.ErrBound
 	}
 	b := strconv.Itoa(len(s)) + colon + s + end
 	// Ahead of the power: what has no room is not begun.
-	if len(d.bytes)+len(b) > api.MaxBytes {
+	if at+len(b) > api.MaxBytes {
 		return api.ErrFull
+	}
+	if at < len(d.bytes) {
+		d.keep(at)
 	}
 	return d.write(b)
 }
@@ -49,7 +68,7 @@ func Recover(d *Disk) ([]string, error) {
 	}
 	d.On()
 	texts, n := Read(d.Bytes())
-	d.bytes = d.bytes[:n]
+	d.keep(n)
 	return texts, nil
 }
 

@@ -10,6 +10,7 @@ import (
 	"stillroom/path"
 	"stillroom/refs"
 	"stillroom/scrub"
+	"stillroom/words"
 )
 
 // read NAME PATH
@@ -28,7 +29,7 @@ func read(k *stock, args []string) (string, error) {
 	case "link":
 		return "->" + x.Data, nil
 	}
-	return listed(kids(x), nil)
+	return words.List(kids(x), nil)
 }
 
 func kids(n api.Node) []string {
@@ -39,9 +40,9 @@ func kids(n api.Node) []string {
 	return l
 }
 
-func list(k *stock, _ []string) (string, error) { return listed(k.names(), nil) }
+func list(k *stock, _ []string) (string, error) { return words.List(k.names(), nil) }
 
-func roots(k *stock, _ []string) (string, error) { return listed(k.roots, nil) }
+func roots(k *stock, _ []string) (string, error) { return words.List(k.roots, nil) }
 
 // refsOf is refs NAME.
 func refsOf(k *stock, args []string) (string, error) {
@@ -49,17 +50,17 @@ func refsOf(k *stock, args []string) (string, error) {
 	if i < 0 {
 		return "", api.ErrNone
 	}
-	return listed(k.packs[i].Refs, nil)
+	return words.List(k.packs[i].Refs, nil)
 }
 
 // users NAME
 func users(k *stock, args []string) (string, error) {
-	return listed(refs.Users(k.packs, args[0]))
+	return words.List(refs.Users(k.packs, args[0]))
 }
 
 // need NAME
 func need(k *stock, args []string) (string, error) {
-	return listed(refs.Closure(k.packs, args))
+	return words.List(refs.Closure(k.packs, args))
 }
 
 // rotten is scan: what can't be read.
@@ -68,16 +69,16 @@ func rotten(k *stock, _ []string) (string, error) {
 	for _, n := range scrub.Scan(k.table()) {
 		l = append(l, strconv.Itoa(n))
 	}
-	return listed(l, nil)
+	return words.List(l, nil)
 }
 
-func free(k *stock, _ []string) (string, error) { return counted(k.table().Free(), nil) }
+func free(k *stock, _ []string) (string, error) { return words.Number(k.table().Free(), nil) }
 
-func saved(k *stock, _ []string) (string, error) { return counted(opt.Saved(k.trees), nil) }
+func saved(k *stock, _ []string) (string, error) { return words.Number(opt.Saved(k.trees), nil) }
 
 // where N
 func where(k *stock, args []string) (string, error) {
-	n, err := numbers(args...)
+	n, err := words.Numbers(args...)
 	if err != nil {
 		return "", err
 	}
@@ -86,7 +87,7 @@ func where(k *stock, args []string) (string, error) {
 		number, at, _ := strings.Cut(place, "/")
 		l = append(l, k.owner(number)+"/"+at)
 	}
-	return listed(l, nil)
+	return words.List(l, nil)
 }
 
 // owner is the name of the pack whose tree has that number, as it is written.

@@ -10,6 +10,7 @@ import (
 	"stillroom/scan"
 	"stillroom/scrub"
 	"stillroom/tree"
+	"stillroom/words"
 )
 
 // add NAME TREE
@@ -37,7 +38,7 @@ func add(k *stock, args []string) (string, error) {
 	}
 	k.packs = append(k.packs, api.Pack{Name: name, Refs: needs})
 	k.numbers[name] = number
-	return done(nil)
+	return words.Done(nil)
 }
 
 // root NAME
@@ -50,7 +51,7 @@ func root(k *stock, args []string) (string, error) {
 		return "", api.ErrExist
 	}
 	k.roots = slices.Insert(k.roots, i, args[0])
-	return done(nil)
+	return words.Done(nil)
 }
 
 // unroot NAME
@@ -60,7 +61,7 @@ func unroot(k *stock, args []string) (string, error) {
 		return "", api.ErrNone
 	}
 	k.roots = slices.Delete(k.roots, i, i+1)
-	return done(nil)
+	return words.Done(nil)
 }
 
 // gc
@@ -74,26 +75,26 @@ func gc(k *stock, _ []string) (string, error) {
 			return "", err
 		}
 	}
-	return counted(len(dead), nil)
+	return words.Number(len(dead), nil)
 }
 
 // once is opt: what is alike.
-func once(k *stock, _ []string) (string, error) { return counted(opt.All(k.trees)) }
+func once(k *stock, _ []string) (string, error) { return words.Number(opt.All(k.trees)) }
 
 // rot N BIT
 func rot(k *stock, args []string) (string, error) {
-	l, err := numbers(args...)
+	l, err := words.Numbers(args...)
 	if err != nil {
 		return "", err
 	}
-	return done(k.table().Disk().Rot(l[0], l[1]))
+	return words.Done(k.table().Disk().Rot(l[0], l[1]))
 }
 
 // mend N DATA
 func mend(k *stock, args []string) (string, error) {
-	l, err := numbers(args[0])
+	l, err := words.Numbers(args[0])
 	if err != nil {
 		return "", err
 	}
-	return done(scrub.Mend(k.table(), l[0], args[1]))
+	return words.Done(scrub.Mend(k.table(), l[0], args[1]))
 }

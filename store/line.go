@@ -1,17 +1,9 @@
 package store
 
 import (
-	"strconv"
-	"strings"
-
 	"stillroom/api"
+	"stillroom/words"
 )
-
-// blank stands between the words of a line, and of a list.
-const blank = " "
-
-// maxNumber has as many digits as a line's number may have.
-const maxNumber = 999999
 
 // command is what lines that begin with its word do.
 type command struct {
@@ -46,7 +38,7 @@ func commands() []command {
 
 // parse a line.
 func parse(line string) (task, error) {
-	word, _, _ := strings.Cut(line, blank)
+	word := words.First(line)
 	for _, c := range commands() {
 		if c.word == word {
 			return c.parse(line)
@@ -57,27 +49,13 @@ func parse(line string) (task, error) {
 
 // parse a line that begins with the command's word.
 func (c command) parse(line string) (task, error) {
-	most := c.args + 2 // one more than there may be, so that it is told
+	split := words.Split
 	if c.toEnd {
-		most = c.args + 1
+		split = words.SplitToEnd
 	}
-	words := strings.SplitN(line, blank, most)
-	if len(words) != c.args+1 {
-		return task{}, api.ErrText
+	l, err := split(line, c.args+1)
+	if err != nil {
+		return task{}, err
 	}
-	return task{c.changes, func(k *stock) (string, error) { return c.do(k, words[1:]) }}, nil
-}
-
-// numbers that arguments are. Each is held against its own writing, since a sign
-// or a needless zero is read as well.
-func numbers(args ...string) ([]int, error) {
-	var l []int
-	for _, arg := range args {
-		n, err := strconv.Atoi(arg)
-		if err != nil || n < 0 || n > maxNumber || strconv.Itoa(n) != arg {
-			return nil, api.ErrText
-		}
-		l = append(l, n)
-	}
-	return l, nil
+	return task{c.changes, func(k *stock) (string, error) { return c.do(k, l[1:]) }}, nil
 }
